@@ -1,10 +1,10 @@
 package filter
 
 import (
-	"strconv"
 	"strings"
 
 	"millrace/api"
+	"millrace/signs"
 )
 
 // Signs, and the words among them that are no names of fields.
@@ -23,63 +23,19 @@ const (
 // maxAround is how many may stand around a filter: package api has no name for it.
 const maxAround = 19
 
-// sign is a parenthesis or a word, and the place of its first byte. The empty one stands behind all of a text.
-type sign struct {
-	text  string
-	place int
-}
+// alone are the bytes that are signs of their own.
+const alone = open + shut
 
-func (s sign) end() bool { return s.text == "" }
-
-// wrong is an error at the sign.
-func (s sign) wrong(err api.Errno) error {
-	return &api.At{Err: err, Place: s.place}
-}
-
-// cut cuts a text into its signs, with one behind them that can't stand anywhere, so that what lacks is found like what is wrong.
-func cut(text string) []sign {
-	var l []sign
-	for place := 0; place < len(text); {
-		long := length(text[place:])
-		if s := (sign{text[place : place+long], place}); s.text != blank {
-			l = append(l, s)
-		}
-		place += long
-	}
-	return append(l, sign{"", len(text)})
-}
-
-// length is how many bytes the sign, or the blank, has with which a text begins.
-func length(text string) int {
-	end := strings.IndexAny(text, blank+open+shut)
-	switch end {
-	case 0:
-		return 1
-	case -1:
-		return len(text)
-	}
-	return end
-}
-
-// reader reads signs from the left.
-type reader struct{ signs []sign }
-
-// next is the next sign. The last one, which ends the text, stays.
-func (r *reader) next() sign {
-	s := r.signs[0]
-	if !s.end() {
-		r.signs = r.signs[1:]
-	}
-	return s
-}
+// reader reads filters from signs.
+type reader struct{ signs.Reader }
 
 // filter reads one that so many stand around. Too many is told ahead of what stands there: it may be no filter at all.
 func (r *reader) filter(around int) (Filter, error) {
-	s := r.next()
+	s := r.Next()
 	if around > maxAround {
-		return nil, s.wrong(api.ErrLimit)
+		return nil, s.Wrong(api.ErrLimit)
 	}
-	switch s.text {
+	switch s.Text {
 	case anyWord:
 		return anything{}, nil
 	case notWord:
@@ -87,10 +43,10 @@ func (r *reader) filter(around int) (Filter, error) {
 	case open:
 		return r.group(around + 1)
 	}
-	if f, ok := fieldOf(s.text); ok {
+	if f, ok := fieldOf(s.Text); ok {
 		return r.test(f)
 	}
-	return nil, s.wrong(api.ErrForm)
+	return nil, s.Wrong(api.ErrForm)
 }
 
 // not reads what stands behind not.
@@ -112,15 +68,15 @@ func (r *reader) group(around int) (Filter, error) {
 			return nil, err
 		}
 		parts = append(parts, f)
-		s := r.next()
-		if s.text == shut {
+		s := r.Next()
+		if s.Text == shut {
 			return gathered(parts, word), nil
 		}
 		if word == "" {
-			word = s.text
+			word = s.Text
 		}
-		if s.text != word || word != andWord && word != orWord {
-			return nil, s.wrong(api.ErrForm)
+		if s.Text != word || word != andWord && word != orWord {
+			return nil, s.Wrong(api.ErrForm)
 		}
 	}
 }
@@ -135,46 +91,46 @@ func gathered(parts []Filter, word string) Filter {
 
 // test reads what is asked of a field.
 func (r *reader) test(f field) (Filter, error) {
-	s := r.next()
-	if s.text == hasWord {
+	s := r.Next()
+	if s.Text == hasWord {
 		return r.has(f)
 	}
-	from, to, both := strings.Cut(s.text, dots)
+	from, to, both := strings.Cut(s.Text, dots)
 	if !both {
 		to = from
 	}
 	low, wrong := number(from)
 	if wrong != api.OK {
-		return nil, s.wrong(wrong)
+		return nil, s.Wrong(wrong)
 	}
 	high, wrong := number(to)
 	if wrong != api.OK {
-		return nil, s.wrong(wrong)
+		return nil, s.Wrong(wrong)
 	}
 	if high < low {
-		return nil, s.wrong(api.ErrOrder)
+		return nil, s.Wrong(api.ErrOrder)
 	}
 	return span{f, low, high}, nil
 }
 
 // has reads the number whose bits are asked for.
 func (r *reader) has(f field) (Filter, error) {
-	s := r.next()
-	n, wrong := number(s.text)
+	s := r.Next()
+	n, wrong := number(s.Text)
 	if wrong != api.OK {
-		return nil, s.wrong(wrong)
+		return nil, s.Wrong(wrong)
 	}
 	return bits{f, n}, nil
 }
 
-// number reads a number. It has one way to be written, so whatever else the library would take (a plus, noughts ahead, -0) is told by writing it again.
+// number reads a number, which is from 0 to MaxTime.
 func number(word string) (int, api.Errno) {
-	n, err := strconv.ParseInt(word, 10, 64)
-	if err != nil || strconv.FormatInt(n, 10) != word {
+	n, ok := signs.Number(word)
+	if !ok {
 		return 0, api.ErrForm
 	}
 	if n < 0 || n > api.MaxTime {
 		return 0, api.ErrRange
 	}
-	return int(n), api.OK
+	return n, api.OK
 }

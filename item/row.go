@@ -6,6 +6,7 @@ import (
 	"strings"
 
 	"millrace/api"
+	"millrace/signs"
 )
 
 // row is the numbers of a line, in the order in which they are written.
@@ -37,23 +38,13 @@ func readRow(line string) (row, bool) {
 		return row{}, false
 	}
 	for i, w := range words {
-		n, ok := number(w)
+		n, ok := signs.Number(w)
 		if !ok {
 			return row{}, false
 		}
 		r[i] = n
 	}
 	return r, true
-}
-
-// number reads a number. A number has one way to be written, so whatever else the library would take
-// (a plus, noughts ahead, -0) is told by writing it again.
-func number(word string) (int, bool) {
-	n, err := strconv.ParseInt(word, 10, 64)
-	if err != nil || strconv.FormatInt(n, 10) != word {
-		return 0, false
-	}
-	return int(n), true
 }
 
 // lines are the lines of a text that are not empty, each with the place of its first byte.
